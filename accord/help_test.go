@@ -1,0 +1,140 @@
+package accord_test
+
+import (
+	"fmt"
+	"math"
+	"slices"
+	"strings"
+	"testing"
+
+	"accord/accord"
+	"accord/api"
+)
+
+// extremes are numbers that are no node, part, key, transaction or message anywhere.
+func extremes() []int {
+	return []int{-1, -2, math.MinInt, math.MinInt32, math.MaxInt, math.MaxInt32, 1 << 62, 1000}
+}
+
+func world(t *testing.T, parts int) *accord.World {
+	t.Helper()
+	w, errno := accord.New(parts)
+	if w == nil || errno != api.OK {
+		t.Fatalf("New(%d) answers %d", parts, errno)
+	}
+	return w
+}
+
+// puts makes writes of part, key, value, and so on.
+func puts(numbers ...int) []api.Write {
+	var list []api.Write
+	for trio := range slices.Chunk(numbers, 3) {
+		list = append(list, api.Write{Part: trio[0], Key: trio[1], Value: trio[2]})
+	}
+	return list
+}
+
+func begin(t *testing.T, w *accord.World, want int, numbers ...int) {
+	t.Helper()
+	if trans, errno := w.Begin(puts(numbers...)); trans != want || errno != api.OK {
+		t.Fatalf("Begin(%v) = %d, %d, want %d, OK", numbers, trans, errno, want)
+	}
+}
+
+func deliver(t *testing.T, w *accord.World, numbers ...int) {
+	t.Helper()
+	for _, i := range numbers {
+		if errno := w.Deliver(i); errno != api.OK {
+			t.Fatalf("Deliver(%d) = %d", i, errno)
+		}
+	}
+}
+
+// deliverAll lets all come, the first one first, till nothing is flying.
+func deliverAll(t *testing.T, w *accord.World) {
+	t.Helper()
+	for len(w.Flying()) > 0 {
+		deliver(t, w, 0)
+	}
+}
+
+// message tells one as 'Prepare 0>1 #1'.
+func message(m api.Message) string {
+	names := []string{"?", "Prepare", "Yes", "No", "Commit", "Abort", "Ask"}
+	return fmt.Sprintf("%s %d>%d #%d", names[m.Kind], m.From, m.To, m.Trans)
+}
+
+func flying(w *accord.World) string {
+	var list []string
+	for _, m := range w.Flying() {
+		list = append(list, message(m))
+	}
+	return strings.Join(list, ", ")
+}
+
+func wantFlying(t *testing.T, w *accord.World, want string) {
+	t.Helper()
+	if got := flying(w); got != want {
+		t.Fatalf("flying are\n%s, want\n%s", got, want)
+	}
+}
+
+func log(t *testing.T, w *accord.World, node int) string {
+	t.Helper()
+	list, errno := w.Log(node)
+	if errno != api.OK {
+		t.Fatalf("Log(%d) = %d", node, errno)
+	}
+	var told []string
+	for _, r := range list {
+		told = append(told, fmt.Sprintf("%d%c", r.Trans, "ubpca"[r.State]))
+	}
+	return strings.Join(told, " ")
+}
+
+// wantLogs holds the nodes' logs against texts as '1b 1c', the coordinator's first.
+func wantLogs(t *testing.T, w *accord.World, want ...string) {
+	t.Helper()
+	for node, text := range want {
+		if got := log(t, w, node); got != text {
+			t.Fatalf("the log of node %d is '%s', want '%s'", node, got, text)
+		}
+	}
+}
+
+func state(t *testing.T, w *accord.World, node, trans int) int {
+	t.Helper()
+	s, errno := w.State(node, trans)
+	if errno != api.OK {
+		t.Fatalf("State(%d, %d) = %d", node, trans, errno)
+	}
+	return s
+}
+
+func wantKey(t *testing.T, w *accord.World, part, key, value, holder int) {
+	t.Helper()
+	v, e := w.Value(part, key)
+	h, f := w.Holder(part, key)
+	if v != value || e != api.OK || h != holder || f != api.OK {
+		t.Fatalf("part %d, key %d: value %d (%d), holder %d (%d), want %d, %d", part, key, v, e, h, f, value, holder)
+	}
+}
+
+// picture is all that a world of so many parts and transactions tells.
+func picture(t *testing.T, w *accord.World, parts, trans int) string {
+	t.Helper()
+	var b strings.Builder
+	fmt.Fprintln(&b, "flying:", flying(w))
+	for node := 0; node <= parts; node++ {
+		fmt.Fprintln(&b, "log", node, log(t, w, node))
+		for number := 1; number <= trans; number++ {
+			fmt.Fprintln(&b, "state", node, number, state(t, w, node, number))
+		}
+		for key := 0; node > 0 && key < api.Keys; key++ {
+			v, e := w.Value(node, key)
+			h, f := w.Holder(node, key)
+			fmt.Fprintln(&b, "key", node, key, v, e, h, f)
+		}
+	}
+	return b.String()
+}

@@ -1,0 +1,154 @@
+package accord_test
+
+import (
+	"testing"
+
+	"accord/accord"
+	"accord/api"
+)
+
+// dice gives the same numbers in each run.
+type dice uint64
+
+func (d *dice) below(n int) int {
+	*d = *d*6364136223846793005 + 1442695040888963407
+	return int(uint64(*d) >> 33 % uint64(n))
+}
+
+// some makes writes that clash often.
+func (d *dice) some(parts int) []api.Write {
+	var list []api.Write
+	for part := 1; part <= parts; part++ {
+		if d.below(2) == 0 {
+			list = append(list, api.Write{Part: part, Key: d.below(api.Keys), Value: d.below(1000)})
+		}
+	}
+	return list
+}
+
+// wantAgreement holds all states of a transaction against each other.
+func wantAgreement(t *testing.T, w *accord.World, parts, trans int) {
+	t.Helper()
+	var seen [5]int
+	for node := 0; node <= parts; node++ {
+		seen[state(t, w, node, trans)]++
+	}
+	if seen[api.Committed] > 0 && seen[api.Aborted] > 0 {
+		t.Fatalf("transaction %d is Committed and Aborted", trans)
+	}
+}
+
+// wantLawfulLogs wants each transaction's records at each node to be one of the few rows that may be.
+func wantLawfulLogs(t *testing.T, w *accord.World, parts int) {
+	t.Helper()
+	for node := 0; node <= parts; node++ {
+		list, _ := w.Log(node)
+		var last [api.MaxTrans + 1]int
+		for _, r := range list {
+			from := last[r.Trans]
+			ok := from == api.Unknown && (r.State == api.Begun) == (node == 0)
+			ok = ok || from == api.Begun && node == 0 && r.State >= api.Committed
+			ok = ok || from == api.Prepared && node > 0 && r.State >= api.Committed
+			if !ok || node > 0 && from == api.Unknown && r.State == api.Committed {
+				t.Fatalf("the log of node %d: %v", node, list)
+			}
+			last[r.Trans] = r.State
+		}
+	}
+}
+
+// wantLawfulKeys works out values and holders from the logs and the writes.
+func wantLawfulKeys(t *testing.T, w *accord.World, parts int, all [][]api.Write) {
+	t.Helper()
+	for part := 1; part <= parts; part++ {
+		var value, holder [api.Keys]int
+		list, _ := w.Log(part)
+		for _, r := range list {
+			for _, write := range all[r.Trans-1] {
+				if write.Part != part {
+					continue
+				}
+				switch r.State {
+				case api.Prepared:
+					holder[write.Key] = r.Trans
+				case api.Committed:
+					value[write.Key], holder[write.Key] = write.Value, 0
+				case api.Aborted:
+					if holder[write.Key] == r.Trans {
+						holder[write.Key] = 0
+					}
+				}
+			}
+		}
+		for key := range api.Keys {
+			wantKey(t, w, part, key, value[key], holder[key])
+		}
+	}
+}
+
+func TestWalks(t *testing.T) { // whatever comes first, all of them do it, or none, and nobody waits in the end
+	var d dice
+	committed, aborted := 0, 0
+	for range 300 {
+		parts := 1 + d.below(api.MaxParts)
+		w := world(t, parts)
+		var all [][]api.Write
+		for len(all) < 8 || len(w.Flying()) > 0 {
+			if list := d.some(parts); len(all) < 8 && len(list) > 0 && d.below(4) == 0 {
+				all = append(all, list)
+				w.Begin(list)
+			} else if n := len(w.Flying()); n > 0 {
+				deliver(t, w, d.below(n))
+			}
+			for trans := range all {
+				wantAgreement(t, w, parts, trans+1)
+			}
+			wantLawfulLogs(t, w, parts)
+			wantLawfulKeys(t, w, parts, all)
+		}
+		for trans := range all {
+			for node := 0; node <= parts; node++ {
+				switch state(t, w, node, trans+1) {
+				case api.Begun, api.Prepared:
+					t.Fatalf("transaction %d still waits at node %d", trans+1, node)
+				case api.Committed:
+					committed++
+				case api.Aborted:
+					aborted++
+				}
+			}
+		}
+	}
+	if committed < 1000 || aborted < 1000 {
+		t.Errorf("the walks are too plain: %d, %d", committed, aborted)
+	}
+}
+
+func TestNoCallPanics(t *testing.T) { // P1
+	numbers := append(extremes(), 0, 1, 2, 5, 6, 12, 13, 60)
+	for _, trans := range []int{0, 3} {
+		w := world(t, 2)
+		for range trans {
+			w.Begin(puts(1, 0, 1, 2, 0, 1))
+		}
+		for _, a := range numbers {
+			w.Deliver(a)
+			w.Drop(a)
+			w.Double(a)
+			w.Tick(a)
+			w.Crash(a)
+			w.Recover(a)
+			w.Up(a)
+			w.Log(a)
+			for range w.Records() {
+			}
+			for _, b := range numbers {
+				w.Fuse(a, b)
+				w.State(a, b)
+				w.Value(a, b)
+				w.Holder(a, b)
+				w.Begin(puts(a, b, a))
+			}
+		}
+	}
+}
