@@ -39,23 +39,40 @@ func (w *World) Begin(writes []api.Write) (int, api.Errno) {
 
 // Deliver lets a message come (P6).
 func (w *World) Deliver(i int) api.Errno {
+	return w.withMessage(i, (*nodes.Nodes).Deliver)
+}
+
+// Drop loses a message (P4).
+func (w *World) Drop(i int) api.Errno {
+	return w.withMessage(i, (*nodes.Nodes).Drop)
+}
+
+// Double doubles a message (P4).
+func (w *World) Double(i int) api.Errno {
+	return w.withMessage(i, (*nodes.Nodes).Double)
+}
+
+// withMessage does something with message number i, if there is one.
+func (w *World) withMessage(i int, does func(*nodes.Nodes, int)) api.Errno {
 	w.lock.Lock()
 	defer w.lock.Unlock()
 	if !w.nodes.Flies(i) {
 		return api.ErrNone
 	}
-	w.nodes.Deliver(i)
+	does(w.nodes, i)
 	return api.OK
 }
 
-// Drop loses a message (P4).
-func (w *World) Drop(i int) api.Errno { return api.OK }
-
-// Double doubles a message (P4).
-func (w *World) Double(i int) api.Errno { return api.OK }
-
 // Tick lets a node's patience end (P8).
-func (w *World) Tick(node int) api.Errno { return api.OK }
+func (w *World) Tick(node int) api.Errno {
+	w.lock.Lock()
+	defer w.lock.Unlock()
+	if !w.nodes.Has(node) {
+		return api.ErrArg
+	}
+	w.nodes.Tick(node)
+	return api.OK
+}
 
 // Crash lets a node crash (P9).
 func (w *World) Crash(node int) api.Errno { return api.OK }

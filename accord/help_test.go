@@ -58,6 +58,33 @@ func deliverAll(t *testing.T, w *accord.World) {
 	}
 }
 
+func drop(t *testing.T, w *accord.World, numbers ...int) {
+	t.Helper()
+	for _, i := range numbers {
+		if errno := w.Drop(i); errno != api.OK {
+			t.Fatalf("Drop(%d) = %d", i, errno)
+		}
+	}
+}
+
+func double(t *testing.T, w *accord.World, numbers ...int) {
+	t.Helper()
+	for _, i := range numbers {
+		if errno := w.Double(i); errno != api.OK {
+			t.Fatalf("Double(%d) = %d", i, errno)
+		}
+	}
+}
+
+func tick(t *testing.T, w *accord.World, nodes ...int) {
+	t.Helper()
+	for _, node := range nodes {
+		if errno := w.Tick(node); errno != api.OK {
+			t.Fatalf("Tick(%d) = %d", node, errno)
+		}
+	}
+}
+
 // message tells one as 'Prepare 0>1 #1'.
 func message(m api.Message) string {
 	names := []string{"?", "Prepare", "Yes", "No", "Commit", "Abort", "Ask"}

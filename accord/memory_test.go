@@ -93,6 +93,12 @@ func TestAnswersAreNew(t *testing.T) { // P2: so is their spare room
 			look(trans)
 		}
 	}
+	double(t, w, 0)
+	look(5)
+	drop(t, w, 0)
+	look(5)
+	tick(t, w, 0, 1, 2, 3)
+	look(5)
 	for len(w.Flying()) > 0 {
 		deliver(t, w, 0)
 		look(5)
@@ -105,6 +111,9 @@ func TestAnswersStay(t *testing.T) { // P2: what was answered does not change be
 	flown := w.Flying()
 	log, _ := w.Log(0)
 	flownThen, logThen := slices.Clone(flown), slices.Clone(log)
+	double(t, w, 1)
+	drop(t, w, 0)
+	tick(t, w, 0)
 	begin(t, w, 2, 1, 0, 2)
 	deliverAll(t, w)
 	if !slices.Equal(flown, flownThen) || !slices.Equal(log, logThen) {
@@ -125,6 +134,17 @@ func TestWorldsAreApart(t *testing.T) { // P2: the same calls get the same answe
 		}
 		if e, f := one.Deliver(step%7), other.Deliver(step%7); e != f {
 			t.Fatalf("Deliver answers %d and %d", e, f)
+		}
+		if e, f := one.Double(step%5), other.Double(step%5); e != f {
+			t.Fatalf("Double answers %d and %d", e, f)
+		}
+		noise.Tick(step % 6)
+		if e, f := one.Drop(step%6), other.Drop(step%6); e != f {
+			t.Fatalf("Drop answers %d and %d", e, f)
+		}
+		noise.Drop(step % 4)
+		if e, f := one.Tick(step%5), other.Tick(step%5); e != f {
+			t.Fatalf("Tick answers %d and %d", e, f)
 		}
 		trans := min(step+1, api.MaxTrans)
 		if a, b := picture(t, one, 3, trans), picture(t, other, 3, trans); a != b {

@@ -1,6 +1,7 @@
 package accord_test
 
 import (
+	"slices"
 	"testing"
 
 	"accord/accord"
@@ -86,12 +87,64 @@ func wantLawfulKeys(t *testing.T, w *accord.World, parts int, all [][]api.Write)
 	}
 }
 
-func TestWalks(t *testing.T) { // whatever comes first, all of them do it, or none, and nobody waits in the end
+// wantAllWerePrepared: Committed stands nowhere, unless all members' logs have Prepared.
+func wantAllWerePrepared(t *testing.T, w *accord.World, parts, trans int, writes []api.Write) {
+	t.Helper()
+	committed := false
+	for node := 0; node <= parts; node++ {
+		committed = committed || state(t, w, node, trans) == api.Committed
+	}
+	for _, write := range writes {
+		list, _ := w.Log(write.Part)
+		if committed && !slices.Contains(list, api.Record{Trans: trans, State: api.Prepared}) {
+			t.Fatalf("transaction %d is Committed, and part %d was never Prepared", trans, write.Part)
+		}
+	}
+}
+
+// wantLawful holds all that is written down against what follows for every world (P12).
+func wantLawful(t *testing.T, w *accord.World, parts int, all [][]api.Write) {
+	t.Helper()
+	for i, writes := range all {
+		wantAgreement(t, w, parts, i+1)
+		wantAllWerePrepared(t, w, parts, i+1, writes)
+	}
+	wantLawfulLogs(t, w, parts)
+	wantLawfulKeys(t, w, parts, all)
+}
+
+// wantSettled wants no transaction to be Begun or Prepared anywhere, and adds to how many ended in which state.
+func wantSettled(t *testing.T, w *accord.World, parts, trans int, ends *[5]int) {
+	t.Helper()
+	for number := 1; number <= trans; number++ {
+		for node := 0; node <= parts; node++ {
+			s := state(t, w, node, number)
+			if s == api.Begun || s == api.Prepared {
+				t.Fatalf("transaction %d still waits at node %d", number, node)
+			}
+			ends[s]++
+		}
+	}
+}
+
+// walks takes many walks, each through a world of its own: a walk answers its transactions, which must be settled then.
+func walks(t *testing.T, walk func(d *dice, w *accord.World, parts int) [][]api.Write) {
+	t.Helper()
 	var d dice
-	committed, aborted := 0, 0
+	var ends [5]int
 	for range 300 {
 		parts := 1 + d.below(api.MaxParts)
 		w := world(t, parts)
+		all := walk(&d, w, parts)
+		wantSettled(t, w, parts, len(all), &ends)
+	}
+	if ends[api.Committed] < 1000 || ends[api.Aborted] < 1000 {
+		t.Errorf("the walks are too plain: %v", ends)
+	}
+}
+
+func TestWalks(t *testing.T) { // whatever comes first, all of them do it, or none, and nobody waits in the end
+	walks(t, func(d *dice, w *accord.World, parts int) [][]api.Write {
 		var all [][]api.Write
 		for len(all) < 8 || len(w.Flying()) > 0 {
 			if list := d.some(parts); len(all) < 8 && len(list) > 0 && d.below(4) == 0 {
@@ -100,28 +153,49 @@ func TestWalks(t *testing.T) { // whatever comes first, all of them do it, or no
 			} else if n := len(w.Flying()); n > 0 {
 				deliver(t, w, d.below(n))
 			}
-			for trans := range all {
-				wantAgreement(t, w, parts, trans+1)
-			}
-			wantLawfulLogs(t, w, parts)
-			wantLawfulKeys(t, w, parts, all)
+			wantLawful(t, w, parts, all)
 		}
-		for trans := range all {
-			for node := 0; node <= parts; node++ {
-				switch state(t, w, node, trans+1) {
-				case api.Begun, api.Prepared:
-					t.Fatalf("transaction %d still waits at node %d", trans+1, node)
-				case api.Committed:
-					committed++
-				case api.Aborted:
-					aborted++
-				}
+		return all
+	})
+}
+
+// mishap lets a message be lost or doubled, or a node's patience end.
+func (d *dice) mishap(t *testing.T, w *accord.World, parts int) {
+	t.Helper()
+	n := len(w.Flying())
+	switch {
+	case d.below(12) == 0:
+		tick(t, w, d.below(parts+1))
+	case n > 0 && d.below(3) == 0:
+		drop(t, w, d.below(n))
+	case n > 0:
+		double(t, w, d.below(n))
+	}
+}
+
+func TestWildWalks(t *testing.T) { // P12, P13: the same, whatever is lost or doubled, and whose patience ends when
+	walks(t, func(d *dice, w *accord.World, parts int) [][]api.Write {
+		var all [][]api.Write
+		for range 200 {
+			n := len(w.Flying())
+			if list := d.some(parts); len(all) < api.MaxTrans && len(list) > 0 && d.below(8) == 0 {
+				all = append(all, list)
+				w.Begin(list)
+			} else if n > 0 && d.below(3) > 0 {
+				deliver(t, w, d.below(n))
+			} else {
+				d.mishap(t, w, parts)
 			}
+			wantLawful(t, w, parts, all)
 		}
-	}
-	if committed < 1000 || aborted < 1000 {
-		t.Errorf("the walks are too plain: %d, %d", committed, aborted)
-	}
+		deliverAll(t, w)
+		for node := 0; node <= parts; node++ {
+			tick(t, w, node)
+			deliverAll(t, w)
+			wantLawful(t, w, parts, all)
+		}
+		return all
+	})
 }
 
 func TestNoCallPanics(t *testing.T) { // P1

@@ -31,6 +31,11 @@ func (m *Mail) Take(i int) api.Message {
 	return message
 }
 
+// Double sends message number i once more; there must be one.
+func (m *Mail) Double(i int) {
+	m.Send(m.flying[i])
+}
+
 // All is a copy, so that nobody outside can change what is flying.
 func (m *Mail) All() []api.Message {
 	list := make([]api.Message, len(m.flying))

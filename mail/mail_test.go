@@ -57,3 +57,34 @@ func TestFull(t *testing.T) {
 		t.Errorf("flying are %v, want 100 at the end", got)
 	}
 }
+
+func TestDouble(t *testing.T) {
+	var m Mail
+	for trans := range 3 {
+		m.Send(api.Message{Kind: api.Yes, From: trans, Trans: trans})
+	}
+	m.Double(1)
+	m.Double(3)
+	m.Double(0)
+	if got := numbers(&m); !slices.Equal(got, []int{0, 1, 2, 1, 1, 0}) {
+		t.Errorf("flying are %v, want 0, 1, 2, 1, 1, 0", got)
+	}
+	if got := m.Take(3); got != (api.Message{Kind: api.Yes, From: 1, Trans: 1}) {
+		t.Errorf("doubled, a message is %v", got)
+	}
+	if got := numbers(&m); !slices.Equal(got, []int{0, 1, 2, 1, 0}) {
+		t.Errorf("flying are %v, want all but the one that was taken", got)
+	}
+}
+
+func TestDoubleWhenFull(t *testing.T) {
+	var m Mail
+	for trans := range api.MaxFlying - 1 {
+		m.Send(api.Message{Trans: trans})
+	}
+	m.Double(7)
+	m.Double(8)
+	if got := numbers(&m); len(got) != api.MaxFlying || got[api.MaxFlying-1] != 7 {
+		t.Errorf("flying are %v, want 7 at the end", got)
+	}
+}

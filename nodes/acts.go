@@ -16,8 +16,9 @@ func (n *Nodes) send(kind int, from int, to int, trans int) {
 	n.mail.Send(api.Message{Kind: kind, From: from, To: to, Trans: trans})
 }
 
-// tell sends the coordinator's word to each member.
-func (n *Nodes) tell(kind int, trans int) {
+// proclaim gives a transaction a state at the coordinator and tells each member: the record first, so that nobody hears of what is not written down.
+func (n *Nodes) proclaim(trans int, state int, kind int) {
+	n.write(Coordinator, trans, state)
 	for _, member := range n.deal(trans).Members() {
 		n.send(kind, Coordinator, member, trans)
 	}
@@ -32,7 +33,6 @@ func (n *Nodes) answer(message api.Message, kind int) {
 func (n *Nodes) Begin(writes []api.Write) int {
 	n.deals = append(n.deals, deal.Make(writes))
 	trans := len(n.deals)
-	n.write(Coordinator, trans, api.Begun)
-	n.tell(api.Prepare, trans)
+	n.proclaim(trans, api.Begun, api.Prepare)
 	return trans
 }

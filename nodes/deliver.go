@@ -61,8 +61,7 @@ func (n *Nodes) yes(message api.Message) {
 	}
 	n.noted[message.Trans][message.From] = true
 	if n.allNoted(message.Trans) {
-		n.write(Coordinator, message.Trans, api.Committed)
-		n.tell(api.Commit, message.Trans)
+		n.proclaim(message.Trans, api.Committed, api.Commit)
 	}
 }
 
@@ -76,11 +75,9 @@ func (n *Nodes) allNoted(trans int) bool {
 }
 
 func (n *Nodes) no(message api.Message) {
-	if n.stateAt(message) != api.Begun {
-		return
+	if n.stateAt(message) == api.Begun {
+		n.giveUp(message.Trans)
 	}
-	n.write(Coordinator, message.Trans, api.Aborted)
-	n.tell(api.Abort, message.Trans)
 }
 
 func (n *Nodes) commit(message api.Message) {

@@ -66,6 +66,16 @@ func (n *Nodes) Flying() []api.Message {
 	return n.mail.All()
 }
 
+// Drop loses message number i; there must be one.
+func (n *Nodes) Drop(i int) {
+	n.mail.Take(i)
+}
+
+// Double lets message number i fly once more; there must be one. No node has sent it, so that it is no act.
+func (n *Nodes) Double(i int) {
+	n.mail.Double(i)
+}
+
 // deal is the transaction of that number; there must be one.
 func (n *Nodes) deal(trans int) deal.Deal {
 	return n.deals[trans-1]
