@@ -31,10 +31,15 @@ func (w *World) Begin(writes []api.Write) (int, api.Errno) {
 	if !deal.Sound(writes, w.nodes.Parts()) {
 		return 0, api.ErrArg
 	}
+	if !w.nodes.Up(nodes.Coordinator) {
+		return 0, api.ErrDown
+	}
 	if w.nodes.Full() {
 		return 0, api.ErrFull
 	}
-	return w.nodes.Begin(writes), api.OK
+	trans := w.nodes.Add(writes)
+	untilCrash(func() { w.nodes.Begin(trans) })
+	return trans, api.OK
 }
 
 // Deliver lets a message come (P6).
@@ -59,29 +64,72 @@ func (w *World) withMessage(i int, does func(*nodes.Nodes, int)) api.Errno {
 	if !w.nodes.Flies(i) {
 		return api.ErrNone
 	}
-	does(w.nodes, i)
+	untilCrash(func() { does(w.nodes, i) })
 	return api.OK
+}
+
+// untilCrash lets a node do something. Where it crashes in the middle of that, it gives up by panic, which is no fault and ends here; any other panic is one, and goes on.
+func untilCrash(does func()) {
+	defer func() {
+		switch gave := recover().(type) {
+		case nil, nodes.Crashed:
+		default:
+			panic(gave)
+		}
+	}()
+	does()
 }
 
 // Tick lets a node's patience end (P8).
 func (w *World) Tick(node int) api.Errno {
-	w.lock.Lock()
-	defer w.lock.Unlock()
-	if !w.nodes.Has(node) {
-		return api.ErrArg
-	}
-	w.nodes.Tick(node)
-	return api.OK
+	return w.withNode(node, true, (*nodes.Nodes).Tick)
 }
 
 // Crash lets a node crash (P9).
-func (w *World) Crash(node int) api.Errno { return api.OK }
+func (w *World) Crash(node int) api.Errno {
+	return w.withNode(node, true, (*nodes.Nodes).Crash)
+}
 
 // Fuse lets a node crash later (P9).
-func (w *World) Fuse(node int, acts int) api.Errno { return api.OK }
+func (w *World) Fuse(node int, acts int) api.Errno {
+	w.lock.Lock()
+	defer w.lock.Unlock()
+	if errno := w.refuse(node, true); errno != api.OK {
+		return errno
+	}
+	if acts < 0 {
+		return api.ErrArg
+	}
+	w.nodes.Fuse(node, acts)
+	return api.OK
+}
 
 // Recover lets a node come up again (P10).
-func (w *World) Recover(node int) api.Errno { return api.OK }
+func (w *World) Recover(node int) api.Errno {
+	return w.withNode(node, false, (*nodes.Nodes).Recover)
+}
+
+// withNode does something with a node, if there is one, and if it is up or down as it must be.
+func (w *World) withNode(node int, up bool, does func(*nodes.Nodes, int)) api.Errno {
+	w.lock.Lock()
+	defer w.lock.Unlock()
+	if errno := w.refuse(node, up); errno != api.OK {
+		return errno
+	}
+	untilCrash(func() { does(w.nodes, node) })
+	return api.OK
+}
+
+// refuse tells why nothing can be done with a node, OK if something can.
+func (w *World) refuse(node int, up bool) api.Errno {
+	if !w.nodes.Has(node) {
+		return api.ErrArg
+	}
+	if w.nodes.Up(node) != up {
+		return api.ErrDown
+	}
+	return api.OK
+}
 
 // Flying tells the messages that are on their way (P4).
 func (w *World) Flying() []api.Message {
@@ -136,4 +184,11 @@ func (w *World) Holder(part int, key int) (int, api.Errno) {
 }
 
 // Up tells whether a node is up (P9).
-func (w *World) Up(node int) (bool, api.Errno) { return false, api.OK }
+func (w *World) Up(node int) (bool, api.Errno) {
+	w.lock.Lock()
+	defer w.lock.Unlock()
+	if !w.nodes.Has(node) {
+		return false, api.ErrArg
+	}
+	return w.nodes.Up(node), api.OK
+}

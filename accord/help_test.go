@@ -41,13 +41,19 @@ func begin(t *testing.T, w *accord.World, want int, numbers ...int) {
 	}
 }
 
-func deliver(t *testing.T, w *accord.World, numbers ...int) {
+// each makes a call with one number after the other, and wants OK.
+func each(t *testing.T, name string, call func(int) api.Errno, numbers []int) {
 	t.Helper()
-	for _, i := range numbers {
-		if errno := w.Deliver(i); errno != api.OK {
-			t.Fatalf("Deliver(%d) = %d", i, errno)
+	for _, number := range numbers {
+		if errno := call(number); errno != api.OK {
+			t.Fatalf("%s(%d) = %d", name, number, errno)
 		}
 	}
+}
+
+func deliver(t *testing.T, w *accord.World, numbers ...int) {
+	t.Helper()
+	each(t, "Deliver", w.Deliver, numbers)
 }
 
 // deliverAll lets all come, the first one first, till nothing is flying.
@@ -60,27 +66,51 @@ func deliverAll(t *testing.T, w *accord.World) {
 
 func drop(t *testing.T, w *accord.World, numbers ...int) {
 	t.Helper()
-	for _, i := range numbers {
-		if errno := w.Drop(i); errno != api.OK {
-			t.Fatalf("Drop(%d) = %d", i, errno)
-		}
-	}
+	each(t, "Drop", w.Drop, numbers)
 }
 
 func double(t *testing.T, w *accord.World, numbers ...int) {
 	t.Helper()
-	for _, i := range numbers {
-		if errno := w.Double(i); errno != api.OK {
-			t.Fatalf("Double(%d) = %d", i, errno)
-		}
-	}
+	each(t, "Double", w.Double, numbers)
 }
 
 func tick(t *testing.T, w *accord.World, nodes ...int) {
 	t.Helper()
-	for _, node := range nodes {
-		if errno := w.Tick(node); errno != api.OK {
-			t.Fatalf("Tick(%d) = %d", node, errno)
+	each(t, "Tick", w.Tick, nodes)
+}
+
+func crash(t *testing.T, w *accord.World, nodes ...int) {
+	t.Helper()
+	each(t, "Crash", w.Crash, nodes)
+}
+
+func comeUp(t *testing.T, w *accord.World, nodes ...int) {
+	t.Helper()
+	each(t, "Recover", w.Recover, nodes)
+}
+
+func fuse(t *testing.T, w *accord.World, node, acts int) {
+	t.Helper()
+	if errno := w.Fuse(node, acts); errno != api.OK {
+		t.Fatalf("Fuse(%d, %d) = %d", node, acts, errno)
+	}
+}
+
+func up(t *testing.T, w *accord.World, node int) bool {
+	t.Helper()
+	is, errno := w.Up(node)
+	if errno != api.OK {
+		t.Fatalf("Up(%d) = %d", node, errno)
+	}
+	return is
+}
+
+// wantUp holds which nodes are up against a text as 'u-u', the coordinator first, in which '-' is down.
+func wantUp(t *testing.T, w *accord.World, want string) {
+	t.Helper()
+	for node, c := range want {
+		if got := up(t, w, node); got != (c == 'u') {
+			t.Fatalf("Up(%d) = %t, want '%s'", node, got, want)
 		}
 	}
 }
@@ -154,6 +184,7 @@ func picture(t *testing.T, w *accord.World, parts, trans int) string {
 	fmt.Fprintln(&b, "flying:", flying(w))
 	for node := 0; node <= parts; node++ {
 		fmt.Fprintln(&b, "log", node, log(t, w, node))
+		fmt.Fprintln(&b, "up", node, up(t, w, node))
 		for number := 1; number <= trans; number++ {
 			fmt.Fprintln(&b, "state", node, number, state(t, w, node, number))
 		}

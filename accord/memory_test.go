@@ -4,6 +4,7 @@ import (
 	"slices"
 	"testing"
 
+	"accord/accord"
 	"accord/api"
 )
 
@@ -121,32 +122,39 @@ func TestAnswersStay(t *testing.T) { // P2: what was answered does not change be
 	}
 }
 
+// stepCalls are the calls of one step, of all kinds but Begin.
+func stepCalls(step int) []func(*accord.World) api.Errno {
+	return []func(*accord.World) api.Errno{
+		func(w *accord.World) api.Errno { return w.Deliver(step % 7) },
+		func(w *accord.World) api.Errno { return w.Double(step % 5) },
+		func(w *accord.World) api.Errno { return w.Drop(step % 6) },
+		func(w *accord.World) api.Errno { return w.Fuse(step%4, step%9) },
+		func(w *accord.World) api.Errno { return w.Tick(step % 5) },
+		func(w *accord.World) api.Errno { return w.Crash(step % 11) },
+		func(w *accord.World) api.Errno { return w.Recover(step % 4) },
+	}
+}
+
 func TestWorldsAreApart(t *testing.T) { // P2: the same calls get the same answers, whatever other worlds do
 	one, other, noise := world(t, 3), world(t, 3), world(t, 5)
-	for step := range 40 {
+	trans := 0
+	for step := range 60 {
 		writes := puts(1+step%3, step%4, step, 1+(step+1)%3, 0, step)
 		n, e := one.Begin(writes)
 		noise.Begin(puts(5, step%4, -step, 1, 0, -step))
-		noise.Deliver(step % 3)
 		m, f := other.Begin(writes)
 		if n != m || e != f {
 			t.Fatalf("Begin answers %d, %d and %d, %d", n, e, m, f)
 		}
-		if e, f := one.Deliver(step%7), other.Deliver(step%7); e != f {
-			t.Fatalf("Deliver answers %d and %d", e, f)
+		trans = max(trans, n)
+		calls, noises := stepCalls(step), stepCalls(step+1)
+		for i, call := range calls {
+			e := call(one)
+			noises[len(noises)-1-i](noise)
+			if f := call(other); e != f {
+				t.Fatalf("call %d of step %d answers %d and %d", i, step, e, f)
+			}
 		}
-		if e, f := one.Double(step%5), other.Double(step%5); e != f {
-			t.Fatalf("Double answers %d and %d", e, f)
-		}
-		noise.Tick(step % 6)
-		if e, f := one.Drop(step%6), other.Drop(step%6); e != f {
-			t.Fatalf("Drop answers %d and %d", e, f)
-		}
-		noise.Drop(step % 4)
-		if e, f := one.Tick(step%5), other.Tick(step%5); e != f {
-			t.Fatalf("Tick answers %d and %d", e, f)
-		}
-		trans := min(step+1, api.MaxTrans)
 		if a, b := picture(t, one, 3, trans), picture(t, other, 3, trans); a != b {
 			t.Fatalf("two worlds after the same calls:\n%s and\n%s", a, b)
 		}

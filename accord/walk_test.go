@@ -127,6 +127,17 @@ func wantSettled(t *testing.T, w *accord.World, parts, trans int, ends *[5]int) 
 	}
 }
 
+// settle lets all come, and again after one node and the other has ticked; all must be up, and none have a fuse.
+func settle(t *testing.T, w *accord.World, parts int, all [][]api.Write) {
+	t.Helper()
+	deliverAll(t, w)
+	for node := 0; node <= parts; node++ {
+		tick(t, w, node)
+		deliverAll(t, w)
+		wantLawful(t, w, parts, all)
+	}
+}
+
 // walks takes many walks, each through a world of its own: a walk answers its transactions, which must be settled then.
 func walks(t *testing.T, walk func(d *dice, w *accord.World, parts int) [][]api.Write) {
 	t.Helper()
@@ -159,13 +170,13 @@ func TestWalks(t *testing.T) { // whatever comes first, all of them do it, or no
 	})
 }
 
-// mishap lets a message be lost or doubled, or a node's patience end.
-func (d *dice) mishap(t *testing.T, w *accord.World, parts int) {
+// mishap lets a message be lost or doubled, or the patience of a node end, which must be up.
+func (d *dice) mishap(t *testing.T, w *accord.World, node int) {
 	t.Helper()
 	n := len(w.Flying())
 	switch {
 	case d.below(12) == 0:
-		tick(t, w, d.below(parts+1))
+		tick(t, w, node)
 	case n > 0 && d.below(3) == 0:
 		drop(t, w, d.below(n))
 	case n > 0:
@@ -184,16 +195,11 @@ func TestWildWalks(t *testing.T) { // P12, P13: the same, whatever is lost or do
 			} else if n > 0 && d.below(3) > 0 {
 				deliver(t, w, d.below(n))
 			} else {
-				d.mishap(t, w, parts)
+				d.mishap(t, w, d.below(parts+1))
 			}
 			wantLawful(t, w, parts, all)
 		}
-		deliverAll(t, w)
-		for node := 0; node <= parts; node++ {
-			tick(t, w, node)
-			deliverAll(t, w)
-			wantLawful(t, w, parts, all)
-		}
+		settle(t, w, parts, all)
 		return all
 	})
 }

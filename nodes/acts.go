@@ -8,11 +8,13 @@ import (
 // The acts of a node are these two, write and send: whatever else a node does is made of them.
 
 func (n *Nodes) write(node int, trans int, state int) {
+	n.burn(node)
 	log := &n.all[node].log
 	*log = append(*log, api.Record{Trans: trans, State: state})
 }
 
 func (n *Nodes) send(kind int, from int, to int, trans int) {
+	n.burn(from)
 	n.mail.Send(api.Message{Kind: kind, From: from, To: to, Trans: trans})
 }
 
@@ -29,10 +31,13 @@ func (n *Nodes) answer(message api.Message, kind int) {
 	n.send(kind, message.To, message.From, message.Trans)
 }
 
-// Begin begins one more transaction; its writes must be sound, and there must be room for it.
-func (n *Nodes) Begin(writes []api.Write) int {
+// Add makes one more transaction, of which no node knows yet, and answers its number; its writes must be sound, and there must be room for it.
+func (n *Nodes) Add(writes []api.Write) int {
 	n.deals = append(n.deals, deal.Make(writes))
-	trans := len(n.deals)
+	return len(n.deals)
+}
+
+// Begin lets the coordinator begin a transaction that was added.
+func (n *Nodes) Begin(trans int) {
 	n.proclaim(trans, api.Begun, api.Prepare)
-	return trans
 }

@@ -2,9 +2,12 @@ package nodes
 
 import "accord/api"
 
-// Deliver lets message number i come; there must be one.
+// Deliver lets message number i come; there must be one. It is lost, if nobody is up to hear it.
 func (n *Nodes) Deliver(i int) {
-	n.receive(n.mail.Take(i))
+	message := n.mail.Take(i)
+	if n.Up(message.To) {
+		n.receive(message)
+	}
 }
 
 func (n *Nodes) receive(message api.Message) {

@@ -10,7 +10,7 @@ import (
 // at makes three parts and a transaction of parts 1 and 2, with a record of it at a node (none, where it is Unknown).
 func at(node, state int) *Nodes {
 	n := Make(3)
-	n.Begin([]api.Write{{Part: 2, Key: 1, Value: 7}, {Part: 1, Key: 1, Value: 8}})
+	n.Begin(n.Add([]api.Write{{Part: 2, Key: 1, Value: 7}, {Part: 1, Key: 1, Value: 8}}))
 	for n.Flies(0) {
 		n.mail.Take(0)
 	}
@@ -118,7 +118,7 @@ func TestVotesAreOfTheirSender(t *testing.T) { // P6: the same vote twice is one
 
 func TestPreparedAgainIsNoClash(t *testing.T) { // P6: a transaction does not clash with itself
 	n := Make(1)
-	n.Begin([]api.Write{{Part: 1, Key: 2, Value: 3}})
+	n.Begin(n.Add([]api.Write{{Part: 1, Key: 2, Value: 3}}))
 	n.send(api.Prepare, 0, 1, 1)
 	n.Deliver(0)
 	n.Deliver(0)

@@ -10,9 +10,11 @@ import (
 // Coordinator is the number of the node that decides.
 const Coordinator = 0
 
-// node has nothing but its log: whatever else is asked about it follows from there.
+// node has a log, which no crash touches, so that all that it must not forget stands there.
 type node struct {
-	log []api.Record
+	log  []api.Record
+	down bool
+	fuse fuse
 }
 
 // votes are the transactions' noted votes, by transaction and part.

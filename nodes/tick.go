@@ -4,12 +4,22 @@ import "accord/api"
 
 // Tick ends a node's patience; there must be such a node.
 func (n *Nodes) Tick(node int) {
+	if node == Coordinator {
+		n.giveUpAll()
+		return
+	}
 	for trans := 1; trans <= len(n.deals); trans++ {
-		switch n.State(node, trans) {
-		case api.Begun: // none but the coordinator's
-			n.giveUp(trans)
-		case api.Prepared: // none but a part's
+		if n.State(node, trans) == api.Prepared {
 			n.askAround(node, trans)
+		}
+	}
+}
+
+// giveUpAll gives up whatever the coordinator has begun and not decided.
+func (n *Nodes) giveUpAll() {
+	for trans := 1; trans <= len(n.deals); trans++ {
+		if n.State(Coordinator, trans) == api.Begun {
+			n.giveUp(trans)
 		}
 	}
 }
