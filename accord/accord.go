@@ -150,7 +150,22 @@ func (w *World) Log(node int) ([]api.Record, api.Errno) {
 
 // Records goes through what all nodes have written down (P11).
 func (w *World) Records() iter.Seq2[int, api.Record] {
-	return func(yield func(int, api.Record) bool) {}
+	return func(yield func(int, api.Record) bool) {
+		for node, log := range w.logs() {
+			for _, record := range log {
+				if !yield(node, record) {
+					return
+				}
+			}
+		}
+	}
+}
+
+// logs is what all nodes have written down by now. The lock is given back ahead of any going through, since calls may be made meanwhile.
+func (w *World) logs() [][]api.Record {
+	w.lock.Lock()
+	defer w.lock.Unlock()
+	return w.nodes.Logs()
 }
 
 // State tells a transaction's state at a node (P11).

@@ -41,6 +41,7 @@ func (d *dice) ramble(t *testing.T, w *accord.World, parts int) [][]api.Write {
 		}
 		wantLawful(t, w, parts, all)
 	}
+	wantRecords(t, w, fromLogs(w, parts))
 	return all
 }
 

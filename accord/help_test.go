@@ -144,9 +144,14 @@ func log(t *testing.T, w *accord.World, node int) string {
 	}
 	var told []string
 	for _, r := range list {
-		told = append(told, fmt.Sprintf("%d%c", r.Trans, "ubpca"[r.State]))
+		told = append(told, record(r))
 	}
 	return strings.Join(told, " ")
+}
+
+// record tells one as '1b'.
+func record(r api.Record) string {
+	return fmt.Sprintf("%d%c", r.Trans, "ubpca"[r.State])
 }
 
 // wantLogs holds the nodes' logs against texts as '1b 1c', the coordinator's first.
@@ -182,6 +187,7 @@ func picture(t *testing.T, w *accord.World, parts, trans int) string {
 	t.Helper()
 	var b strings.Builder
 	fmt.Fprintln(&b, "flying:", flying(w))
+	fmt.Fprintln(&b, "records:", given(w.Records()))
 	for node := 0; node <= parts; node++ {
 		fmt.Fprintln(&b, "log", node, log(t, w, node))
 		fmt.Fprintln(&b, "up", node, up(t, w, node))

@@ -2,6 +2,7 @@ package accord
 
 import (
 	"errors"
+	"iter"
 	"sync"
 	"testing"
 	"time"
@@ -38,12 +39,27 @@ func calls() map[string]func(*World) {
 		"Flying":         func(w *World) { w.Flying() },
 		"Log":            func(w *World) { w.Log(0) },
 		"Log, wrong":     func(w *World) { w.Log(-1) },
+		"Records":        func(w *World) { goThrough(w.Records()) },
+		"Records, left":  func(w *World) { leave(w.Records()) },
 		"State":          func(w *World) { w.State(0, 1) },
 		"State, wrong":   func(w *World) { w.State(0, 0) },
 		"Value":          func(w *World) { w.Value(1, 0) },
 		"Value, wrong":   func(w *World) { w.Value(0, 0) },
 		"Holder":         func(w *World) { w.Holder(1, 0) },
 		"Holder, wrong":  func(w *World) { w.Holder(0, 0) },
+	}
+}
+
+// goThrough goes through all that an iterator gives.
+func goThrough(seq iter.Seq2[int, api.Record]) {
+	for range seq {
+	}
+}
+
+// leave goes through an iterator no further than to what it gives first.
+func leave(seq iter.Seq2[int, api.Record]) {
+	for range seq {
+		break
 	}
 }
 
@@ -112,6 +128,30 @@ func TestOtherPanicsGiveTheLockBack(t *testing.T) {
 	}
 }
 
+func TestRecordsAreGoneThroughWithoutTheLock(t *testing.T) { // P11: calls may be made meanwhile
+	w, _ := New(2)
+	w.Begin([]api.Write{{Part: 1}})
+	w.Deliver(0)
+	given := 0
+	for range w.Records() {
+		given++
+		if !w.lock.TryLock() {
+			t.Fatal("the lock is held while records are gone through")
+		}
+		w.lock.Unlock()
+	}
+	if given != 2 {
+		t.Errorf("%d records are given, want 2", given)
+	}
+	fault := func(int, api.Record) bool { panic("a fault") }
+	if got := caught(func() { w.Records()(fault) }); got != "a fault" {
+		t.Errorf("the fault of who goes through goes on as %v", got)
+	}
+	if !w.lock.TryLock() {
+		t.Error("the lock is held after a fault of who goes through")
+	}
+}
+
 func TestManySides(t *testing.T) {
 	for range 50 {
 		w, _ := New(api.MaxParts)
@@ -128,6 +168,7 @@ func TestManySides(t *testing.T) {
 				w.Up(0)
 				w.Flying()
 				w.Log(0)
+				goThrough(w.Records())
 			})
 		}
 		sides.Wait()

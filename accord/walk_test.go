@@ -147,6 +147,7 @@ func walks(t *testing.T, walk func(d *dice, w *accord.World, parts int) [][]api.
 		parts := 1 + d.below(api.MaxParts)
 		w := world(t, parts)
 		all := walk(&d, w, parts)
+		wantRecords(t, w, fromLogs(w, parts))
 		wantSettled(t, w, parts, len(all), &ends)
 	}
 	if ends[api.Committed] < 1000 || ends[api.Aborted] < 1000 {

@@ -10,6 +10,15 @@ func (n *Nodes) Log(node int) []api.Record {
 	return list
 }
 
+// Logs is what all nodes have written down, node by node, as lists of their own.
+func (n *Nodes) Logs() [][]api.Record {
+	list := make([][]api.Record, len(n.all))
+	for node := range n.all {
+		list[node] = n.Log(node)
+	}
+	return list
+}
+
 // State is that of the last record that a node has of a transaction.
 func (n *Nodes) State(node int, trans int) int {
 	log := n.all[node].log
